@@ -806,7 +806,7 @@ func TestOnlyStoredTable(t *testing.T) {
 // spared tells these fields with others in the spare room behind them, and all
 // of that room.
 func spared(l []impl.Field) ([]impl.Field, []impl.Field) {
-	room := append(slices.Clone(l), fieldsOf(caching, "no-store, no-cache, private, only-if-cached, max-age=0", "vary", "*", allowed, "x", "expires", "0", "age", "9")...)
+	room := append(slices.Clone(l), fieldsOf(caching, "no-store, no-cache, private, only-if-cached, max-age=0", "vary", "*", allowed, "x", "expires", "0", "age", "9", "etag", "x", "last-modified", someDate, "if-none-match", "*", "if-modified-since", someDate)...)
 	return room[:len(l)], room
 }
 
